@@ -165,7 +165,7 @@ func TestShortLists(t *testing.T) {
 	group.Wait()
 }
 
-// named returns the numbers that the tables name, with those beside them; of the long ranges only the ends and some in between.
+// named returns the numbers of the tables Canon, Compat and Folds, and of each range of the other tables both ends and the middle, with the numbers beside all of them.
 func named() []int {
 	var l []int
 	for _, r := range slices.Concat(api.Nothing(), api.Spaces(), api.Assigned(), api.Prohibited(), api.Classes()) {
@@ -184,8 +184,8 @@ func named() []int {
 	return slices.Compact(l)
 }
 
-// P21.1: all calls for every number that the tables name, among spaces and letters.
-func TestEveryNumberOfTheTables(t *testing.T) {
+// P21.1: all calls for numbers of the tables, alone and among spaces and letters.
+func TestNumbersOfTheTables(t *testing.T) {
 	x := newTables()
 	var group sync.WaitGroup
 	for _, rule := range rules {
@@ -293,7 +293,7 @@ func ends(s []int, i int) bool {
 	return i == len(s) || s[i] != 0x301 && s[i] != 0x3099 && s[i] != 0x323
 }
 
-// P21.2: additional spaces of all sorts at the ends, and where there is one.
+// P21.2: additional spaces at the ends and where there is one: U+0020, and both ends of each range of the table Spaces.
 func TestMoreSpaces(t *testing.T) {
 	sorts := []int{0x20}
 	for _, r := range api.Spaces() {
@@ -330,7 +330,7 @@ func TestOtherSpaces(t *testing.T) {
 	}
 }
 
-// P21.2: numbers with the property Nothing anywhere.
+// P21.2: both ends of each range of the table Nothing, anywhere; the rules take turns.
 func TestMoreNothing(t *testing.T) {
 	for k, s := range texts() {
 		for _, r := range api.Nothing() {
